@@ -324,6 +324,90 @@ func TestP14InternErrLarge(t *testing.T) {
 	})
 }
 
+// countOf: how many terms a list has, those within others too.
+func countOf(l []api.Term) int {
+	count := len(l)
+	for _, t := range l {
+		count += countOf(t.Args)
+	}
+	return count
+}
+
+// comb: a term that is so deep, with one without Args ahead of each Arg and one behind it.
+func comb(levels int, t api.Term) api.Term {
+	for range levels {
+		t = term("f", term("a"), t, term("b"))
+	}
+	return t
+}
+
+// deepest: the term with these at the right of its first Args, as far below as there are any.
+func deepest(t api.Term, more []api.Term) api.Term {
+	if len(t.Args) == 0 {
+		return term(t.Name, more...)
+	}
+	args := slices.Clone(t.Args)
+	args[0] = deepest(args[0], more)
+	return term(t.Name, args...)
+}
+
+// filled: the terms with others without Args, so that there are so many in all, which stand at different places.
+func filled(l []api.Term, total int) map[string][]api.Term {
+	more := termsOf(total-countOf(l), 7)
+	last := len(l) - 1
+	behind := slices.Clone(l)
+	behind[last] = term(l[last].Name, append(slices.Clone(l[last].Args), more...)...)
+	ahead := slices.Clone(l)
+	ahead[0] = term(l[0].Name, append(slices.Clone(more), l[0].Args...)...)
+	below := slices.Clone(l)
+	below[0] = deepest(l[0], more)
+	return map[string][]api.Term{
+		"ahead of the list": append(slices.Clone(more), l...),
+		"behind the list":   append(slices.Clone(l), more...),
+		"the last Args":     behind,
+		"the first Args":    ahead,
+		"Args far below":    below,
+	}
+}
+
+// Wherever they stand, each term is one: as many as may be are taken, and not one more.
+func TestP14InternCountsAllTerms(t *testing.T) {
+	d := dice(8)
+	shapes := map[string][]api.Term{
+		"one":            {term("a")},
+		"one within one": {under(1, term("a"))},
+		"a short chain":  {under(2, term("a"))},
+		"a chain":        {under(98, term("a"))},
+		"chains":         {under(50, term("a")), under(98, term("b")), under(3, term("c"))},
+		"a comb":         {comb(90, term("a"))},
+		"combs":          {comb(3, term("a")), comb(40, term("b"))},
+		"doubled":        {doubled(10, term("a"))},
+		"thrown":         d.terms(50, 8, 3, 3),
+	}
+	for what, l := range shapes {
+		for _, over := range []int{0, 1, 2, 90} {
+			for where, whole := range filled(l, api.MaxItems+over) {
+				if count := countOf(whole); count != api.MaxItems+over {
+					t.Fatal("the test itself can't count:", what, where, count)
+				}
+				holdCount(t, what+", filled up: "+where, whole, over)
+			}
+		}
+	}
+}
+
+// holdCount: terms that are so many over MaxItems are taken if they are none, with one id for each of the list, and else are too many.
+func holdCount(t *testing.T, what string, l []api.Term, over int) {
+	t.Helper()
+	ids, table, err := shard.Intern(l, 2)
+	switch {
+	case over <= 0 && (err != api.OK || len(ids) != len(l) || len(table) == 0):
+		t.Errorf("%s, %d over: error %d, %d ids, %d entries", what, over, err, len(ids), len(table))
+	case over > 0 && (err != api.ErrLarge || ids != nil || table != nil):
+		t.Errorf("%s, %d over: error %d, %d ids, %d entries", what, over, err, len(ids), len(table))
+	}
+}
+
 func TestP14InternOrderOfErrors(t *testing.T) {
 	long := term(letters(101))
 	holdWrong(t, []wrongCase{

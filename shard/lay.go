@@ -48,31 +48,42 @@ func unseen(seen map[*api.Term]int, list []api.Term) []api.Term {
 	return list[known:]
 }
 
-// lay answers all terms in the order in which they get their ids, and the places of those of the list; not ok, if they are too many or too deep.
-func lay(l []api.Term) (terms []term, tops []int, ok bool) {
-	for _, t := range l {
-		if terms, ok = layOne(terms, t, 1); !ok {
-			return nil, nil, false
-		}
-		tops = append(tops, len(terms)-1)
-	}
-	return terms, tops, true
+// layer lays terms down. room is for how many terms that have not been met yet.
+type layer struct {
+	terms []term
+	room  int
 }
 
-// layOne lays the term's args down, and then the term, which so has the last place. It stops as soon as it knows that there is no room: what is small in memory may be greater than can be gone through.
-func layOne(terms []term, t api.Term, depth int) (_ []term, ok bool) {
-	if depth > maxDepth || len(terms)+len(t.Args) >= api.MaxItems {
+// lay answers all terms in the order in which they get their ids, and the places of those of the list; not ok, if they are too many or too deep.
+func lay(l []api.Term) (terms []term, tops []int, ok bool) {
+	to := layer{room: api.MaxItems}
+	tops, ok = to.layAll(l, 1)
+	return to.terms, tops, ok
+}
+
+// layAll lays the terms of a list down, each behind its args, and answers their places. The whole list takes its room ahead of what is within it: a term comes to its place late, and those that are still on their way are terms too. It stops as soon as it knows that there is no room: what is small in memory may be greater than can be gone through.
+func (to *layer) layAll(l []api.Term, depth int) (places []int, ok bool) {
+	to.room -= len(l)
+	if to.room < 0 || len(l) > 0 && depth > maxDepth {
 		return nil, false
 	}
-	args := make([]int, len(t.Args))
-	for i, arg := range t.Args {
-		if terms, ok = layOne(terms, arg, depth+1); !ok {
+	places = make([]int, len(l))
+	for i, t := range l {
+		args, ok := to.layAll(t.Args, depth+1)
+		if !ok {
 			return nil, false
 		}
-		args[i] = len(terms) - 1
+		places[i] = to.put(t.Name, args)
 	}
+	return places, true
+}
+
+// put a term whose args have their places behind all others.
+func (to *layer) put(name string, args []int) int {
+	place := len(to.terms)
 	for _, arg := range args {
-		terms[arg].parent = len(terms)
+		to.terms[arg].parent = place
 	}
-	return append(terms, term{name: t.Name, args: args, parent: noParent}), true
+	to.terms = append(to.terms, term{name: name, args: args, parent: noParent})
+	return place
 }
