@@ -1,60 +1,60 @@
 package weave
 
 import (
-	"maps"
 	"slices"
 
 	"lockstep/api"
 	"lockstep/laid"
 )
 
-// ends: all that the numbers may be in the end, each once, sorted. It goes on from all states at a time by one part each: those that are the same by then are one from there on.
+// states, each once.
+type states map[state]struct{}
+
+// byAge: the states of each age. It goes on from those of one age when all younger ones are done with: then each of them is known, and gone on from just once, however often it was come to.
+type byAge [2*maxParts + 1]states
+
+// ends: all that the numbers may be in the end, each once, sorted.
 func (p *plan) ends() []numbers {
-	known := map[numbers]struct{}{}
-	now := map[state]struct{}{}
-	p.put(now, p.first())
-	for len(now) > 0 {
-		next := map[state]struct{}{}
-		for s := range now {
-			if s.over == p.all {
-				known[s.numbers] = struct{}{}
-				continue
-			}
-			p.goOnAll(next, &s)
-		}
-		now = next
+	var known byAge
+	for age := range known {
+		known[age] = states{}
 	}
-	return slices.SortedFunc(maps.Keys(known), func(a, b numbers) int { return slices.Compare(a[:], b[:]) })
+	p.begin(&known)
+	last := 2 * len(p.parts)
+	for age := range last {
+		for s := range known[age] {
+			p.goOn(&known, &s)
+		}
+		known[age] = nil
+	}
+	var l []numbers
+	for s := range known[last] {
+		l = append(l, s.numbers)
+	}
+	slices.SortFunc(l, func(a, b numbers) int { return slices.Compare(a[:], b[:]) })
+	return l
 }
 
-// goOnAll: with each part with which it may go on.
-func (p *plan) goOnAll(next map[state]struct{}, s *state) {
-	for i := range p.parts {
-		if p.ready(s, i) {
-			to := *s
-			p.goOn(&to, i)
-			p.put(next, to)
+// goOn: to all states that may be next.
+func (p *plan) goOn(known *byAge, s *state) {
+	ways := p.waysFrom(s.outline)
+	for i := range ways {
+		to := *s
+		if p.take(&to, &ways[i]) {
+			p.keep(known, &to)
 		}
 	}
 }
 
-// put a state among others, when all has been done in it for which it does not matter when.
-func (p *plan) put(l map[state]struct{}, s state) {
-	for p.goOnAlone(&s) {
-	}
-	p.sort(&s)
-	l[s] = struct{}{}
-}
-
-// goOnAlone with one part, if there is one for which it does not matter when.
-func (p *plan) goOnAlone(s *state) bool {
-	for i := range p.parts {
-		if p.ready(s, i) && p.alone(s, i) {
-			p.goOn(s, i)
-			return true
+// keep a state. Where there is but one way on it goes on first: the states between need not be kept.
+func (p *plan) keep(known *byAge, s *state) {
+	for ways := p.waysFrom(s.outline); len(ways) == 1; ways = p.waysFrom(s.outline) {
+		if !p.take(s, &ways[0]) {
+			return
 		}
 	}
-	return false
+	p.sort(s)
+	known[s.age()][*s] = struct{}{}
 }
 
 func (p *plan) tell(names []string, ends []numbers) [][]api.Var {

@@ -1,13 +1,47 @@
 package weave
 
-import (
-	"slices"
+import "lockstep/api"
 
-	"lockstep/api"
-	"lockstep/laid"
-)
+// use of a number: the parts that have to do with it.
+type use struct {
+	changers set
+	assigns  set // those of the changers that are Assigns
+	readers  set
+}
 
-// meets: the other parts for which it matters when a part is done, ahead of them or behind. (Those that must be behind it are none of them, and those that must be ahead of it are over when it may be done.)
+func (p *plan) allUses() []use {
+	l := make([]use, len(p.changed))
+	for i := range p.parts {
+		own := &p.parts[i]
+		for at := range l {
+			if own.reads.has(at) {
+				l[at].readers |= one(i)
+			}
+		}
+		if own.changes() {
+			l[own.at].changers |= one(i)
+		}
+		if own.kind == api.Assign {
+			l[own.at].assigns |= one(i)
+		}
+	}
+	return l
+}
+
+// guessFrom so many Assigns to a number on it pays to say ahead of time whether it matters: where fewer write over one another there are more outlines to look at than states are saved.
+const guessFrom = 3
+
+func (p *plan) toGuess() set {
+	var l set
+	for at := range p.uses {
+		if p.uses[at].assigns.size() >= guessFrom {
+			l |= one(at)
+		}
+	}
+	return l
+}
+
+// meets: the other parts for which it matters when a part is done, ahead of them or behind. Those that must be behind it are none of them, and those that must be ahead of it are over when it may be done.
 type meets struct {
 	changers set // change a number that it reads
 	readers  set // read the number that it changes
@@ -17,30 +51,17 @@ type meets struct {
 func (p *plan) meetsOf(i int) meets {
 	var m meets
 	own := &p.parts[i]
-	for j := range p.parts {
-		other := &p.parts[j]
-		if i == j || own.behind.has(j) {
-			continue
-		}
-		if other.changes() && p.reads(own.e, other.at) {
-			m.changers |= one(j)
-		}
-		if own.changes() && p.reads(other.e, own.at) {
-			m.readers |= one(j)
-		}
-		if own.changes() && other.changes() && own.at == other.at && (own.kind != api.Add || other.kind != api.Add) {
-			m.rivals |= one(j)
+	for at := range p.uses {
+		if own.reads.has(at) {
+			m.changers |= p.uses[at].changers
 		}
 	}
-	return m
-}
-
-func (own *part) changes() bool { return own.kind != api.If }
-
-// reads: does the expression read the number that is there, among those that are changed?
-func (p *plan) reads(e *laid.Expr, at int) bool {
-	if e.Kind == api.Name && e.Place == p.changed[at] {
-		return true
+	switch own.kind {
+	case api.Assign:
+		m.readers, m.rivals = p.uses[own.at].readers, p.uses[own.at].changers
+	case api.Add:
+		m.readers, m.rivals = p.uses[own.at].readers, p.uses[own.at].assigns
 	}
-	return slices.ContainsFunc(e.Kids, func(kid laid.Expr) bool { return p.reads(&kid, at) })
+	none := one(i) | own.behind
+	return meets{m.changers &^ none, m.readers &^ none, m.rivals &^ none}
 }

@@ -13,24 +13,28 @@ const maxParts = 9
 // part of a program: an Assign, an Add or an If, once for each time that it may be done.
 type part struct {
 	kind   int
-	at     int // of an Assign or Add: where the number that it changes is, among those that are changed
+	at     int // of an Assign or Add: the number that it changes
 	e      *laid.Expr
-	before set    // all that must be over ahead of it
-	behind set    // all that it must be over ahead of
+	reads  set    // the numbers that it reads
+	before set    // the parts that must be over ahead of it
+	behind set    // the parts that it must be over ahead of
 	blocks [2]set // of an If: the parts of its blocks
 	meets
 }
 
-// plan of all that may happen: the parts, and how they hang on one another.
+// plan of all that may happen. Numbers are those of the names that some part changes: there are no more of them than parts, however many names there are.
 type plan struct {
+	start   []int64 // the numbers of all names
+	changed []int   // of each number: the place of its name
 	parts   []part
-	all     set
-	changed []int // the places of the names that are changed
-	start   []int64
+	all     set   // parts
+	uses    []use // of each number
+	guessed set   // numbers of which outlines say whether they matter; all others do
 	twins   []twin
+	ways    map[outline][]move
 }
 
-// count the parts of a program; so many that it has too many count as no more than that: their number might run over.
+// count the parts of a program; too many count as one too many: how many they are might run over.
 func count(l []laid.Stat) int {
 	n := 0
 	for i := range l {
@@ -54,7 +58,7 @@ func countOne(s *laid.Stat) int {
 }
 
 func planOf(l []laid.Stat, start []int64) *plan {
-	p := &plan{start: start, changed: changedIn(nil, l)}
+	p := &plan{start: start, changed: changedIn(nil, l), ways: map[outline][]move{}}
 	slices.Sort(p.changed)
 	p.changed = slices.Compact(p.changed)
 	p.all = p.lay(l, 0)
@@ -65,6 +69,8 @@ func planOf(l []laid.Stat, start []int64) *plan {
 			}
 		}
 	}
+	p.uses = p.allUses()
+	p.guessed = p.toGuess()
 	for i := range p.parts {
 		p.parts[i].meets = p.meetsOf(i)
 	}
@@ -107,20 +113,36 @@ func (p *plan) layOne(s *laid.Stat, ahead set) set {
 			own |= p.lay(block, ahead)
 		}
 	case api.If:
-		i := p.add(part{kind: s.Kind, e: &s.E, before: ahead})
+		i := p.add(s, ahead)
 		own = one(i)
 		for k, block := range s.Blocks {
 			p.parts[i].blocks[k] = p.lay(block, ahead|one(i))
 			own |= p.parts[i].blocks[k]
 		}
 	default:
-		at, _ := slices.BinarySearch(p.changed, s.Place)
-		own = one(p.add(part{kind: s.Kind, at: at, e: &s.E, before: ahead}))
+		own = one(p.add(s, ahead))
 	}
 	return own
 }
 
-func (p *plan) add(next part) int {
-	p.parts = append(p.parts, next)
+func (p *plan) add(s *laid.Stat, ahead set) int {
+	at, _ := slices.BinarySearch(p.changed, s.Place)
+	p.parts = append(p.parts, part{kind: s.Kind, at: at, e: &s.E, reads: p.readsOf(&s.E), before: ahead})
 	return len(p.parts) - 1
 }
+
+// readsOf: the numbers that an expression reads.
+func (p *plan) readsOf(e *laid.Expr) set {
+	var reads set
+	if e.Kind == api.Name {
+		if at, ok := slices.BinarySearch(p.changed, e.Place); ok {
+			reads = one(at)
+		}
+	}
+	for i := range e.Kids {
+		reads |= p.readsOf(&e.Kids[i])
+	}
+	return reads
+}
+
+func (own *part) changes() bool { return own.kind != api.If }

@@ -1,6 +1,7 @@
 package weave
 
 import (
+	"cmp"
 	"slices"
 
 	"lockstep/laid"
@@ -34,8 +35,32 @@ func same(a, b *laid.Expr) bool {
 // sort what twins have to do, so that states between which there is no difference are one.
 func (p *plan) sort(s *state) {
 	for _, t := range p.twins {
-		if (t.alike || s.begun(t.first) && s.begun(t.second)) && s.less(t.second, t.first) {
+		if (t.alike || s.begun(t.first) && s.begun(t.second)) && s.compare(t.first, t.second) > 0 {
 			s.swap(t.first, t.second)
 		}
 	}
+}
+
+func (s *state) begun(i int) bool { return (s.found | s.over).has(i) }
+
+// compare what is left of two parts: first come those that are not begun, then those that have found what they write, by that.
+func (s *state) compare(i, j int) int {
+	return cmp.Or(cmp.Compare(s.rank(i), s.rank(j)), cmp.Compare(s.finds[i], s.finds[j]))
+}
+
+func (s *state) rank(i int) int {
+	switch {
+	case s.over.has(i):
+		return 2
+	case s.found.has(i):
+		return 1
+	}
+	return 0
+}
+
+// swap what is left of two parts.
+func (s *state) swap(i, j int) {
+	s.finds[i], s.finds[j] = s.finds[j], s.finds[i]
+	s.over = s.over.swapped(i, j)
+	s.found = s.found.swapped(i, j)
 }

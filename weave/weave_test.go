@@ -232,7 +232,7 @@ func TestP24AtTheLimits(t *testing.T) {
 	hold(t, list(par(list(repeat(4, more)), list(repeat(5, more)))), nil, fromTo(2, 9))
 	hold(t, list(par(list(repeat(3, more)), list(repeat(3, more)), list(repeat(3, more)))), nil, fromTo(2, 9))
 	hold(t, list(repeat(3, par(list(more), list(more), list(more)))), nil, fromTo(3, 9))
-	hold(t, list(blocks(7, func(i int) []api.Stat { return list(assign("x", of(api.Sum, name("x"), num(int64(i))))) })), nil, fromTo(0, 21))
+	hold(t, list(blocks(maxParts, func(i int) []api.Stat { return list(assign("x", of(api.Sum, name("x"), num(int64(i))))) })), nil, fromTo(0, 36))
 	twice := add("x", name("x"))
 	got, err := weave.Weave(list(blocks(maxParts, func(int) []api.Stat { return list(twice) })), vars("x", 1))
 	if err != api.OK || got[0][0].N != 10 || got[len(got)-1][0].N != 512 {
@@ -246,6 +246,74 @@ func TestP24AtTheLimits(t *testing.T) {
 	l := list(par(list(assign("x", num(1))), list(blocks(8, func(i int) []api.Stat { return each[i : i+1] }))))
 	if got, err := weave.Weave(l, nil); err != api.OK || len(got) != 256 {
 		t.Error(len(got), err)
+	}
+}
+
+// Each writes a digit behind those that it found: so there comes every number of different digits, and nothing else.
+func TestP24DigitsInAnyOrder(t *testing.T) {
+	for digits := 1; digits <= 7; digits++ {
+		l := list(blocks(digits, func(i int) []api.Stat {
+			return list(assign("x", of(api.Sum, of(api.Times, name("x"), num(10)), num(int64(i+1)))))
+		}))
+		var want [][]api.Var
+		for n := int64(1); len(want) < allOrders(digits); n++ {
+			if differentDigits(n, digits) {
+				want = append(want, vars("x", n))
+			}
+		}
+		hold(t, l, nil, want)
+	}
+}
+
+// allOrders: in how many ways one may take some of so many, at least one, in an order.
+func allOrders(many int) int {
+	n := 0
+	for i := 1; i <= many; i++ {
+		n = i * (n + 1)
+	}
+	return n
+}
+
+// differentDigits from 1 up to that one?
+func differentDigits(n int64, most int) bool {
+	var seen [10]bool
+	for ; n > 0; n /= 10 {
+		digit := n % 10
+		if digit == 0 || int(digit) > most || seen[digit] {
+			return false
+		}
+		seen[digit] = true
+	}
+	return true
+}
+
+// Many Assigns to few names, some in Ifs: what each writes may be read, added to, written over, or be there in the end.
+func TestP24ManyAssigns(t *testing.T) {
+	d := dice(6)
+	for range 400 {
+		var l [][]api.Stat
+		for range 2 + d.below(3) {
+			var block []api.Stat
+			for range 1 + d.below(2) {
+				s := assign(d.name(2), d.expr(2, 2))
+				switch d.below(8) {
+				case 0:
+					s = add(d.name(2), d.expr(2, 2))
+				case 1:
+					s = when(d.expr(2, 2), list(s))
+				}
+				block = append(block, s)
+			}
+			l = append(l, block)
+		}
+		program := list(par(l...))
+		if d.below(3) == 0 {
+			program = append(program, assign(d.name(2), d.expr(2, 2)))
+		}
+		if partsOf(program) <= 7 {
+			start := vars("x y", int64(d.below(7)-3), int64(d.below(7)-3))
+			hold(t, program, start, byWords(program, start))
+		}
 	}
 }
 
