@@ -8,7 +8,7 @@ import (
 	"lockstep/api"
 )
 
-// Stat of a program that is laid down: a name is a place among all names, and what takes no step, whatever the variables are, is left out: else Repeats of nothing, within one another, might never end.
+// Stat of a program that is laid down: a name is a place among all names, and what takes no step, whatever the variables are, is left out, the blocks of a Par too: else Repeats of nothing, within one another, might never end.
 type Stat struct {
 	Kind, Place int
 	E           Expr
@@ -89,7 +89,9 @@ func Down(l []api.Stat, names []string) []Stat {
 		s := &l[i]
 		to := Stat{Kind: s.Kind, Place: placeOf(names, s.Name), E: layExpr(&s.E, names), Times: s.N}
 		for _, block := range s.Blocks {
-			to.Blocks = append(to.Blocks, Down(block, names))
+			if inner := Down(block, names); len(inner) > 0 || s.Kind != api.Par {
+				to.Blocks = append(to.Blocks, inner)
+			}
 		}
 		if !to.idle() {
 			laid = append(laid, to)
@@ -112,7 +114,7 @@ func (s *Stat) idle() bool {
 	case api.Repeat:
 		return s.Times == 0 || len(s.Blocks[0]) == 0
 	case api.Par:
-		return !slices.ContainsFunc(s.Blocks, func(block []Stat) bool { return len(block) > 0 })
+		return len(s.Blocks) == 0
 	}
 	return false
 }

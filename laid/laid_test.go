@@ -1,6 +1,7 @@
 package laid_test
 
 import (
+	"math"
 	"slices"
 	"testing"
 
@@ -34,7 +35,7 @@ func TestNamesOfStartAndProgram(t *testing.T) {
 	}
 }
 
-// What can take no step is left out; an If takes one, whatever it does then.
+// What can take no step is left out, the blocks of a Par too; an If takes one, whatever it does then.
 func TestDownLeavesOutWhatIsIdle(t *testing.T) {
 	set := api.Stat{Kind: api.Assign, Name: "x", E: num(1)}
 	none := api.Stat{Kind: api.If, E: name("x"), Blocks: make([][]api.Stat, 2)}
@@ -47,7 +48,7 @@ func TestDownLeavesOutWhatIsIdle(t *testing.T) {
 	}
 	busy := []api.Stat{set, none, repeat(1, none), repeat(2, repeat(5), set), {Kind: api.Par, Blocks: [][]api.Stat{{repeat(5)}, {set}}}}
 	l := laid.Down(slices.Concat(idle, busy, idle), []string{"x"})
-	if len(l) != len(busy) || len(l[3].Blocks[0]) != 1 || len(l[4].Blocks[0]) != 0 || len(l[4].Blocks[1]) != 1 {
+	if len(l) != len(busy) || len(l[3].Blocks[0]) != 1 || len(l[1].Blocks) != 2 || len(l[4].Blocks) != 1 || len(l[4].Blocks[0]) != 1 {
 		t.Error("left out:", l)
 	}
 }
@@ -67,6 +68,40 @@ func TestValue(t *testing.T) {
 		l := laid.Down([]api.Stat{{Kind: api.Assign, Name: "y", E: c.e}}, names)
 		if got := l[0].E.Value(func(place int) int64 { return numbers[place] }); got != c.want || l[0].Place != 2 {
 			t.Error(c.e, got, c.want)
+		}
+	}
+}
+
+func TestLeft(t *testing.T) {
+	set := api.Stat{Kind: api.Assign, Name: "x", E: num(1)}
+	when := func(blocks ...[]api.Stat) api.Stat { return api.Stat{Kind: api.If, E: name("x"), Blocks: blocks} }
+	one, two := []api.Stat{set}, []api.Stat{set, set}
+	endless := set
+	for range 40 {
+		endless = repeat(1000, endless)
+	}
+	for _, c := range []struct {
+		l    []api.Stat
+		need int
+	}{
+		{nil, 0}, {one, 1}, {two, 2}, {[]api.Stat{when(two)}, 1}, {[]api.Stat{when(two, one)}, 2}, {[]api.Stat{when(nil, one)}, 1},
+		{[]api.Stat{repeat(5, two...)}, 10}, {[]api.Stat{repeat(1000, repeat(1000, set), set)}, 1001000}, {[]api.Stat{repeat(1000)}, 0},
+		{[]api.Stat{{Kind: api.Par, Blocks: [][]api.Stat{one, nil, two}}, set}, 4},
+		{[]api.Stat{when([]api.Stat{endless})}, 1}, {[]api.Stat{when([]api.Stat{endless}, one)}, 2}, {[]api.Stat{when(two, []api.Stat{endless})}, 3},
+	} {
+		l := laid.Down(c.l, []string{"x"})
+		for _, steps := range []int{c.need, c.need + 1, math.MaxInt32, math.MaxInt64} {
+			if left := laid.Left(l, steps); left != steps-c.need {
+				t.Error(c.l, steps, left)
+			}
+		}
+		if left := laid.Left(l, c.need-1); left >= 0 {
+			t.Error(c.l, "with too few", left)
+		}
+	}
+	for _, steps := range []int{0, 1, 1000, math.MaxInt64} {
+		if left := laid.Left(laid.Down([]api.Stat{set, endless, set}, []string{"x"}), steps); left >= 0 {
+			t.Error("endless", steps, left)
 		}
 	}
 }
