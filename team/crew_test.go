@@ -35,30 +35,30 @@ func numbersOf(text string) (numbers []int64, took int) {
 	return numbers, took
 }
 
-// goOn by one statement, or one end of a list.
-func (c *crew) goOn(p *path) *path {
-	if p.ended() {
-		return c.leave(p)
-	}
-	return c.do(p)
+// hand: a path, and the worker that follows it.
+type hand struct {
+	*worker
+	p *path
 }
 
-// byOrder does the program, always by one statement of one of the paths, which is said here and not left to the schedule. It answers how many paths there were at a time.
+// byOrder does the program, always by one statement of one of the paths, which is said here and not left to the schedule, as if for each there were a worker. It answers how many paths there were at a time.
 func byOrder(c *crew, choose func(paths int) int) int {
-	var paths []*path
+	var hands []hand
 	most := 0
 	for {
 		for len(c.ready) > 0 {
-			paths = append(paths, <-c.ready)
+			hands = append(hands, hand{&worker{crew: c}, <-c.ready})
 		}
-		if len(paths) == 0 {
+		if len(hands) == 0 {
 			return most
 		}
-		most = max(most, len(paths))
-		at := choose(len(paths))
-		paths[at] = c.goOn(paths[at])
-		if paths[at] == nil {
-			paths = slices.Delete(paths, at, at+1)
+		most = max(most, len(hands))
+		at := choose(len(hands))
+		h := &hands[at]
+		h.p = h.goOn(h.p)
+		if h.p == nil {
+			h.tell()
+			hands = slices.Delete(hands, at, at+1)
 		}
 	}
 }
@@ -95,6 +95,7 @@ var texts = []string{
 	"par { par { a += 1; b = 1 } and { a += 2; par { c = 1; d = c } and { a += 3 } } } and { repeat 3 { par { e = e + 1 } and { a += 1 } and { f = f + 2 }; if e - 1 { e += f } else { f += e } } }; g = a + b * c - d + e * f",
 	"if 1 { par { if a { b = 1 } else { b = 2 } } and { if a { } else { par { c += 1 } and { c += a } } } }; repeat 2 { par { par { par { a += 1 } and { b = b + 1 } } } }",
 	"par { a += 1 } and { a += 1 } and { a += 1 } and { a += 1 } and { a += 1 } and { a += 1 } and { a += 1 } and { a += 1; repeat 10 { b += 1 } }; c = a",
+	"par { repeat 150 { a += 1 } } and { repeat 30 { par { a += 2 } and { b = b + 1 } }; repeat 101 { if b { a += 1 } } }; c = a",
 }
 
 func TestP25RunWhoeverIsFirst(t *testing.T) {
@@ -131,21 +132,23 @@ func TestP25TooFewStepsWhoeverIsFirst(t *testing.T) {
 // At a Par all blocks but one, which the worker has itself, are at once there for others; nobody waits for them: whoever is the last goes on behind it.
 func TestP25BlocksAreHandedOut(t *testing.T) {
 	c := crewOf(t, "par { a = 1 } and { } and { b = 2 } and { c = 3; d = 4 }; e = a + b + c", 10)
+	w := worker{crew: c}
 	whole := <-c.ready
-	first := c.goOn(whole)
+	first := w.goOn(whole)
 	if first == nil || first == whole || len(c.ready) != 2 || whole.open.Load() != 3 {
 		t.Fatal("not handed out:", first, len(c.ready), whole.open.Load())
 	}
 	second, third := <-c.ready, <-c.ready
-	if c.goOn(first) != first || c.goOn(first) != nil || c.goOn(third) != third || c.goOn(third) != third || c.goOn(third) != nil {
+	if w.goOn(first) != first || w.goOn(first) != nil || w.goOn(third) != third || w.goOn(third) != third || w.goOn(third) != nil {
 		t.Fatal("a worker is held by the blocks of others")
 	}
 	if c.isOver() || len(c.ready) != 0 {
 		t.Fatal("gone on ahead of the last block")
 	}
-	if c.goOn(second) != second || c.goOn(second) != whole || c.goOn(whole) != whole || c.isOver() || c.goOn(whole) != nil || !c.isOver() {
+	if w.goOn(second) != second || w.goOn(second) != whole || w.goOn(whole) != whole || c.isOver() || w.goOn(whole) != nil || !c.isOver() {
 		t.Error("not gone on behind the last block")
 	}
+	w.tell()
 	if want := []int64{1, 2, 3, 4, 6}; !slices.Equal(c.told(), want) || c.left.Load() != 5 {
 		t.Error(c.told(), c.left.Load())
 	}
@@ -155,7 +158,7 @@ func TestP25BlocksAreHandedOut(t *testing.T) {
 func following() int {
 	stacks := make([]byte, 1<<20)
 	stacks = stacks[:runtime.Stack(stacks, true)]
-	return bytes.Count(stacks, []byte("team.(*crew).follow("))
+	return bytes.Count(stacks, []byte("team.(*worker).follow("))
 }
 
 // mostFollowing: how many follow a path at a time while the program is done, as far as one who looks on from beside can see.
@@ -208,18 +211,18 @@ func (c *crew) comesTo(place int, n int64) bool {
 // A worker that is free is handed the blocks of another one's Par, while that one is still within its own block, wherever the Par is, and whatever the free one did ahead of that.
 func TestP25WhoIsFreeIsHandedBlocks(t *testing.T) {
 	c := crewOf(t, "par { a = 1; par { b = 1 } and { c = 1 }; d = b + c } and { e = 1 } and { f = 1 }", 10)
-	whole := <-c.ready
-	slow := c.goOn(whole)
+	w, other := worker{crew: c}, worker{crew: c}
+	slow := w.goOn(<-c.ready)
 	var others sync.WaitGroup
-	others.Go(c.work)
+	others.Go(other.work)
 	if !c.comesTo(4, 1) || !c.comesTo(5, 1) {
 		t.Fatal("no one does the other blocks:", c.told())
 	}
-	slow = c.goOn(c.goOn(slow))
+	slow = w.goOn(w.goOn(slow))
 	if !c.comesTo(2, 1) || !slices.Equal(c.told(), []int64{1, 0, 1, 0, 1, 1}) {
 		t.Fatal("no one does the other block within the block:", c.told())
 	}
-	c.follow(slow)
+	w.follow(slow)
 	others.Wait()
 	if !slices.Equal(c.told(), []int64{1, 1, 1, 2, 1, 1}) || c.left.Load() != 4 {
 		t.Error(c.told(), c.left.Load())

@@ -181,6 +181,23 @@ func TestP25EachNumberOfSteps(t *testing.T) {
 	hold(t, l, nil, want, took)
 }
 
+// However the steps are told of, all are counted.
+func TestP25StepsOfAnyNumber(t *testing.T) {
+	d := dice(3)
+	for _, about := range []int{0, 95, 195, 495, 995} {
+		for took := about; took <= about+10; took++ {
+			l := slices.Repeat(list(repeat(int64(took/2), add("x", num(1)))), 2)
+			if took%2 == 1 {
+				l = append(l, add("x", num(1)))
+			}
+			hold(t, l, nil, vars("x", int64(took)), took)
+			first := d.below(took + 1)
+			parts := list(par(list(repeat(int64(first), add("x", num(1)))), list(repeat(int64(took-first), add("x", num(1))))))
+			hold(t, parts, nil, vars("x", int64(took)), took)
+		}
+	}
+}
+
 // No effect is lost: many add to one variable at a time.
 func TestP25NoEffectIsLost(t *testing.T) {
 	l := read(t, "repeat 20 { repeat 50 { par { x += 1 } and { x += 2 } and { y += z; x += z } } }")
